@@ -1,6 +1,7 @@
 package tests
 
 import (
+	"runtime/debug"
 	"slices"
 	"strconv"
 	"strings"
@@ -8,6 +9,13 @@ import (
 
 	"loop.example/g00700/impl"
 )
+
+// TestMain collects garbage less often, because the tests of programs make much
+// of it.
+func TestMain(m *testing.M) {
+	debug.SetGCPercent(400)
+	m.Run()
+}
 
 // What the tests of several layers need of programs: trees in place of lists of
 // nodes, their canonical text, and texts with few parentheses.
