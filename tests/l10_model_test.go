@@ -679,12 +679,14 @@ func checkEachFuel(t *testing.T, src, input string, most int) trace {
 // one way, most loops end, and most calls have a function.
 type runs struct {
 	wilds
+	// All names are used in one way, and all calls fit.
+	strict bool
 	params []string
 	// How many loops there are, each with a counter of its own.
 	loops int
 }
 
-func (w *runs) rarely() bool { return w.dice.below(25) == 0 }
+func (w *runs) rarely() bool { return !w.strict && w.dice.below(25) == 0 }
 
 func (w *runs) any() string { return w.pick("x", "y", "z", "A", "B", "NR", "NF", "p", "q", "r") }
 
@@ -746,6 +748,9 @@ func (w *runs) leaf() *tree {
 
 func (w *runs) call(deep int) *tree {
 	f := w.dice.below(4)
+	if w.strict {
+		f %= 3
+	}
 	call := named(impl.NkCall, []string{"f", "g", "h", "k"}[f], "")
 	for _, param := range [][]string{{"p", "q"}, {"r", "p"}, {"p", "r", "q"}, {"no"}}[f] {
 		switch {
@@ -904,7 +909,7 @@ func (w *runs) rules() []rule {
 		}
 	}
 	for i, params := range [][]string{{"p", "q"}, {"r", "p"}, {"p", "r", "q"}} {
-		if w.dice.below(8) == 0 {
+		if w.dice.below(8) == 0 && !w.strict {
 			continue
 		}
 		w.params = params
